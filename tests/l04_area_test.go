@@ -528,17 +528,103 @@ func TestAreaReadLacking(t *testing.T) {
 	}
 }
 
-// It is all the bytes of a side that are counted, sector behind sector, even if one of them is not full.
-func TestAreaReadCountsTheSide(t *testing.T) {
-	d := diskOf(7, 0)
-	d.Sectors[0] = sealedNums("", 1, 0, 8)
-	copy(d.Sectors[1:], []string{"abc", "", "defgh"})
-	if got := impl.AreaRead(d); got.Text != "abcdefgh" || got.Code != impl.OK {
-		t.Errorf("three sectors that are not full: %q, code %d", got.Text, got.Code)
+// shortened is an area of 7 sectors whose side lacks bytes at the end of one of its sectors.
+func shortened(side int64, text string, at int, lacks int) impl.Disk {
+	d := areaOf(7, 6, side, text)
+	sector := 1 + int(side)*3 + at
+	d.Sectors[sector] = d.Sectors[sector][:len(d.Sectors[sector])-lacks]
+	return d
+}
+
+// pendingAll is the same disk, but that each of its sectors is pending.
+func pendingAll(d impl.Disk) impl.Disk {
+	waits := impl.Disk{Sectors: make([]string, len(d.Sectors))}
+	for at, data := range d.Sectors {
+		waits.Pending = append(waits.Pending, impl.Pending{At: int64(at), Data: data})
 	}
-	d.Sectors[3] = "defg"
-	if got := impl.AreaRead(d); !sameAreaOut(got, impl.AreaOut{Code: impl.ErrSum}) {
-		t.Errorf("three sectors with one too few: %q, code %d", got.Text, got.Code)
+	return waits
+}
+
+// Each sector that a text needs is full but the last one: what one lacks is not made up for by those behind it.
+func TestAreaReadNotFull(t *testing.T) {
+	for size := 1; size <= roomOf(7); size++ {
+		text := textOf(size)
+		for at, piece := range pieces(text) {
+			for _, lacks := range []int{1, len(piece)} {
+				for _, side := range []int64{0, 1} {
+					d := shortened(side, text, at, lacks)
+					for behind := at + 1; behind < 3; behind++ {
+						d.Sectors[1+int(side)*3+behind] = textOf(impl.SectorSize)
+					}
+					for _, c := range []impl.Disk{d, pendingAll(d)} {
+						if got := impl.AreaRead(c); !sameAreaOut(got, impl.AreaOut{Code: impl.ErrSum}) {
+							t.Fatalf("%d bytes on side %d, where sector %d lacks %d: %q, code %d", size, side, at, lacks, got.Text, got.Code)
+						}
+						for _, steps := range []int64{-1, 0, manySteps} {
+							if got := impl.AreaPut(c, "new", steps); !sameAreaOut(got, impl.AreaOut{Code: impl.ErrSum}) {
+								t.Fatalf("AreaPut where %d bytes are on side %d, and sector %d lacks %d: code %d", size, side, at, lacks, got.Code)
+							}
+						}
+					}
+				}
+			}
+		}
+	}
+}
+
+// A sector that the text does not need may have what it likes, and so may the end of its last one.
+func TestAreaReadBehindTheText(t *testing.T) {
+	for size := 0; size <= roomOf(7); size++ {
+		text := textOf(size)
+		for _, side := range []int64{0, 1} {
+			for _, older := range []string{"", "o", textOf(impl.SectorSize)} {
+				d := areaOf(7, 6, side, text)
+				l := d.Sectors[1+int(side)*3:][:3]
+				needed := len(pieces(text))
+				for i := needed; i < 3; i++ {
+					l[i] = older
+				}
+				if needed > 0 {
+					l[needed-1] += older[:min(len(older), impl.SectorSize-len(l[needed-1]))]
+				}
+				for _, c := range []impl.Disk{d, pendingAll(d)} {
+					if got := impl.AreaRead(c); !sameAreaOut(got, impl.AreaOut{Disk: c, Text: text, Gen: 6}) {
+						t.Fatalf("%d bytes on side %d, %q behind them: %q, code %d", size, side, older, got.Text, got.Code)
+					}
+				}
+			}
+		}
+	}
+}
+
+// Sectors that have enough in all, but not each of them its own, are not put together.
+func TestAreaReadDoesNotGather(t *testing.T) {
+	for _, c := range []struct {
+		what string
+		size int64
+		l    []string
+		code int64
+	}{
+		{"the first sector empty, the second one with all", 2, []string{"", "ab", ""}, impl.ErrSum},
+		{"the last sector with all", 2, []string{"", "", "ab"}, impl.ErrSum},
+		{"one byte too few, more behind it", 7, []string{"abcdef", textOf(22), ""}, impl.ErrSum},
+		{"three sectors with enough in all", 8, []string{"abc", "", "defgh"}, impl.ErrSum},
+		{"three sectors that are not full, a text of the first one", 3, []string{"abc", "", "defgh"}, impl.OK},
+		{"a text of two sectors, enough in all", 65, []string{textOf(63), textOf(2), ""}, impl.ErrSum},
+		{"a text of all sectors, the second one a byte short", 192, []string{textOf(64), textOf(63), textOf(64)}, impl.ErrSum},
+	} {
+		for _, side := range []int{0, 1} {
+			d := diskOf(7, 0)
+			d.Sectors[0] = sealedNums("", 1, int64(side), c.size)
+			copy(d.Sectors[1+side*3:], c.l)
+			want := impl.AreaOut{Code: c.code}
+			if c.code == impl.OK {
+				want = impl.AreaOut{Disk: d, Text: strings.Join(c.l, "")[:c.size], Gen: 1}
+			}
+			if got := impl.AreaRead(d); !sameAreaOut(got, want) {
+				t.Errorf("%s, on side %d: %q, code %d", c.what, side, got.Text, got.Code)
+			}
+		}
 	}
 }
 
